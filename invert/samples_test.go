@@ -1,0 +1,272 @@
+package invert_test
+
+import (
+	"math"
+	"math/rand"
+	"slices"
+	"testing"
+
+	"phasor/api"
+	"phasor/circuit"
+	"phasor/gate"
+	"phasor/invert"
+)
+
+const (
+	least = math.MinInt
+	great = math.MaxInt
+	below = 1 - 0x1p-53 // the greatest float below 1
+)
+
+// Operations in short.
+
+func do(k api.GateKind, qubits ...int) api.Op {
+	return api.Op{Kind: api.OpGate, Gate: k, Qubits: qubits, If: -1}
+}
+
+func when(bit, value int, op api.Op) api.Op {
+	op.If, op.When = bit, value
+	return op
+}
+
+func measure(qubit, bit int) api.Op {
+	return api.Op{Kind: api.OpMeasure, Qubits: []int{qubit}, Bit: bit, If: -1}
+}
+
+func reset(qubit int) api.Op {
+	return api.Op{Kind: api.OpReset, Qubits: []int{qubit}, If: -1}
+}
+
+func barrier(qubits ...int) api.Op {
+	return api.Op{Kind: api.OpBarrier, Qubits: qubits, If: -1}
+}
+
+func of(qubits, bits int, ops ...api.Op) api.Circuit {
+	return api.Circuit{Qubits: qubits, Bits: bits, Ops: ops}
+}
+
+// times is a row of operations so many times.
+func times(n int, ops ...api.Op) []api.Op {
+	var l []api.Op
+	for range n {
+		l = append(l, ops...)
+	}
+	return l
+}
+
+// behind is rows of operations one behind the other.
+func behind(rows ...[]api.Op) []api.Op { return slices.Concat(rows...) }
+
+// wish is what a circuit at chance may have at most; a count that is used up is not drawn again.
+type wish struct {
+	qubits, bits, ops, halves, measures int
+}
+
+// drawn is a circuit at chance, of just so many qubits, bits and operations.
+func (w wish) drawn(chance *rand.Rand) api.Circuit {
+	c := of(w.qubits, w.bits)
+	for range w.ops {
+		c.Ops = append(c.Ops, w.op(chance))
+	}
+	return c
+}
+
+// row is one of gates without conditions, and barriers, alone.
+func (w wish) row(chance *rand.Rand) api.Circuit {
+	c := of(w.qubits, w.bits)
+	for range w.ops {
+		if mixed := chance.Perm(w.qubits); chance.Intn(12) == 0 {
+			c.Ops = append(c.Ops, barrier(mixed[:1+chance.Intn(w.qubits)]...))
+		} else {
+			c.Ops = append(c.Ops, w.gate(chance, mixed))
+		}
+	}
+	return c
+}
+
+func (w *wish) op(chance *rand.Rand) api.Op {
+	mixed := chance.Perm(w.qubits)
+	switch draw := chance.Intn(24); {
+	case draw < 2 && w.measures > 0 && w.bits > 0:
+		w.measures--
+		return measure(mixed[0], chance.Intn(w.bits))
+	case draw == 2 && w.measures > 0:
+		w.measures--
+		return reset(mixed[0])
+	case draw == 3:
+		return barrier(mixed[:1+chance.Intn(w.qubits)]...)
+	}
+	op := w.gate(chance, mixed)
+	if w.bits > 0 && chance.Intn(6) == 0 {
+		return when(chance.Intn(w.bits), chance.Intn(2), op)
+	}
+	return op
+}
+
+// gate is one on some of these qubits; halving ones come oftener than they would, as long as they may.
+func (w *wish) gate(chance *rand.Rand, qubits []int) api.Op {
+	for {
+		k := api.GateKind(1 + chance.Intn(20))
+		if chance.Intn(4) == 0 {
+			k = []api.GateKind{api.GateV, api.GateVdg, api.GateW, api.GateWdg, api.GateHH}[chance.Intn(5)]
+		}
+		if gate.Arity(k) > len(qubits) || gate.Halving(k) && w.halves == 0 {
+			continue
+		}
+		if gate.Halving(k) {
+			w.halves--
+		}
+		return do(k, slices.Clone(qubits[:gate.Arity(k)])...)
+	}
+}
+
+// plainRow is one of the gates, and barriers, that Control takes.
+func plainRow(chance *rand.Rand, qubits, bits, ops int) api.Circuit {
+	c := of(qubits, bits)
+	for len(c.Ops) < ops {
+		mixed := chance.Perm(qubits)
+		k := controllable()[chance.Intn(7)]
+		switch {
+		case chance.Intn(8) == 0:
+			c.Ops = append(c.Ops, barrier(mixed[:1+chance.Intn(qubits)]...))
+		case gate.Arity(k) <= qubits:
+			c.Ops = append(c.Ops, do(k, mixed[:gate.Arity(k)]...))
+		}
+	}
+	return c
+}
+
+// controllable are the kinds that Control takes.
+func controllable() []api.GateKind {
+	return []api.GateKind{api.GateI, api.GateX, api.GateY, api.GateZ, api.GateCX, api.GateCZ, api.GateSwap}
+}
+
+// deep is a copy by hand.
+func deep(c api.Circuit) api.Circuit {
+	d := of(c.Qubits, c.Bits)
+	for _, op := range c.Ops {
+		op.Qubits = append([]int{}, op.Qubits...)
+		d.Ops = append(d.Ops, op)
+	}
+	return d
+}
+
+// wrongCircuits may not be. What is wrong stands behind what Inverse and Control refuse, too, and on as many qubits as there may be.
+func wrongCircuits() []api.Circuit {
+	return []api.Circuit{
+		of(-1, 0), of(65, 0), of(1, -1), of(1, 65), of(great, great), of(least, 0), of(64, 65), of(65, 64),
+		of(1, 1, times(4097, do(api.GateX, 0))...), of(1, 1, times(4097, barrier(0))...), of(1, 1, times(4097, measure(0, 0))...),
+		of(1, 1, do(api.GateX, 1)), of(1, 1, do(api.GateX, -1)), of(1, 1, do(21, 0)), of(1, 1, do(0, 0)), of(1, 1, do(-1, 0)), of(1, 1, do(great, 0)), of(1, 1, do(least, 0)),
+		of(2, 1, do(api.GateCX, 0)), of(2, 1, do(api.GateCX, 1, 1)), of(2, 1, do(api.GateX, 0, 1)), of(1, 1, do(api.GateY)),
+		of(1, 1, do(api.GateX, 0), do(api.GateX, 64)), of(64, 1, do(api.GateX, 64)), of(64, 1, do(api.GateX, 63), do(api.GateX, great)),
+		of(1, 1, measure(1, 0)), of(1, 1, measure(0, 1)), of(1, 0, measure(0, 0)), of(1, 1, reset(1)), of(1, 1, barrier()), of(2, 1, barrier(0, 0)), of(2, 1, barrier(2)),
+		of(1, 1, when(1, 0, do(api.GateX, 0))), of(1, 1, when(0, 2, do(api.GateX, 0))), of(1, 1, when(-1, 1, do(api.GateX, 0))), of(1, 1, when(-2, 0, do(api.GateX, 0))), of(1, 1, when(0, 0, barrier(0))),
+		of(1, 1, api.Op{}), of(1, 1, api.Op{Kind: 5, Qubits: []int{0}, If: -1}), of(0, 0, do(api.GateX, 0)),
+		of(1, 1, api.Op{Kind: api.OpBarrier, Gate: api.GateX, Qubits: []int{0}, If: -1}), of(1, 1, api.Op{Kind: api.OpGate, Gate: api.GateX, Qubits: []int{0}, Bit: 1, If: -1}),
+		of(3, 1, measure(0, 0), do(api.GateX, 3)), of(3, 1, when(0, 1, do(api.GateX, 0)), do(api.GateX, 3)), of(1, 0, reset(0), barrier()), of(64, 0, do(api.GateS, 0), do(api.GateX, 64)),
+		of(1, 0, behind(times(4095, do(api.GateY, 0)), []api.Op{do(api.GateY, 1)})...),
+	}
+}
+
+// openCircuits may be, but are not unitary.
+func openCircuits() []api.Circuit {
+	return []api.Circuit{
+		of(1, 1, measure(0, 0)), of(1, 0, reset(0)), of(1, 1, when(0, 0, do(api.GateX, 0))), of(1, 1, when(0, 1, do(api.GateI, 0))),
+		of(2, 1, do(api.GateX, 0), barrier(0), measure(1, 0)), of(64, 64, do(api.GateX, 63), barrier(0), measure(63, 63)), of(1, 1, reset(0), do(api.GateX, 0)),
+		of(2, 2, behind(times(4095, do(api.GateX, 0)), []api.Op{reset(1)})...),
+	}
+}
+
+func sameOp(a, b api.Op) bool {
+	return a.Kind == b.Kind && a.Gate == b.Gate && slices.Equal(a.Qubits, b.Qubits) && a.Bit == b.Bit && a.If == b.If && a.When == b.When
+}
+
+func sameCircuit(a, b api.Circuit) bool {
+	return a.Qubits == b.Qubits && a.Bits == b.Bits && slices.EqualFunc(a.Ops, b.Ops, sameOp)
+}
+
+// call is one of the layer's, with a name; Power with a number in it.
+type call struct {
+	name string
+	of   func(c api.Circuit) (api.Circuit, api.Errno)
+}
+
+func power(k int) call {
+	return call{"Power", func(c api.Circuit) (api.Circuit, api.Errno) { return invert.Power(c, k) }}
+}
+
+var (
+	inverse = call{"Inverse", invert.Inverse}
+	conj    = call{"Conj", invert.Conj}
+	mirror  = call{"Mirror", invert.Mirror}
+	control = call{"Control", invert.Control}
+)
+
+// calls are all of them.
+func calls() []call {
+	return []call{inverse, conj, mirror, control, power(0), power(1), power(3), power(-1), power(-2)}
+}
+
+// answer is what a call answers that must not refuse: a circuit that may be. What it was given is not changed.
+func (f call) answer(t *testing.T, c api.Circuit) api.Circuit {
+	t.Helper()
+	ahead := deep(c)
+	d, e := f.of(c)
+	if e != api.OK {
+		t.Fatalf("%s: error %d", f.name, e)
+	}
+	if !sameCircuit(c, ahead) {
+		t.Fatalf("%s: the circuit was changed", f.name)
+	}
+	if at, e := circuit.Check(d); e != api.OK {
+		t.Fatalf("%s: what comes may not be at %d: %v", f.name, at, d)
+	}
+	return d
+}
+
+// want takes a call to answer a circuit.
+func (f call) want(t *testing.T, what string, c, wanted api.Circuit) {
+	t.Helper()
+	if d := f.answer(t, c); !sameCircuit(d, wanted) {
+		t.Errorf("%s of %s: %v, not %v", f.name, what, d, wanted)
+	}
+}
+
+// refuses takes a call to answer an error, and nothing beside it.
+func (f call) refuses(t *testing.T, what string, c api.Circuit, wanted api.Errno) {
+	t.Helper()
+	ahead := deep(c)
+	d, e := f.of(c)
+	if e != wanted || d.Qubits != 0 || d.Bits != 0 || len(d.Ops) != 0 {
+		t.Errorf("%s of %s: %v, error %d, not %d", f.name, what, d, e, wanted)
+	}
+	if !sameCircuit(c, ahead) {
+		t.Errorf("%s of %s: the circuit was changed", f.name, what)
+	}
+}
+
+// wantOwn takes each list of an answer to be its own: what is written into one, or put behind it, is seen in no other, nor in what was handed in, nor by a call that comes later.
+func (f call) wantOwn(t *testing.T, c api.Circuit) {
+	t.Helper()
+	ahead, wanted := deep(c), f.answer(t, c)
+	kept := deep(wanted)
+	d := f.answer(t, c)
+	for i := range d.Ops {
+		for j := range d.Ops[i].Qubits {
+			d.Ops[i].Qubits[j] = 1000*i + j
+		}
+		_ = append(d.Ops[i].Qubits, -7, -7, -7)
+	}
+	for i, op := range d.Ops {
+		for j, q := range op.Qubits {
+			if q != 1000*i+j {
+				t.Fatalf("%s: lists of operation %d and another share memory", f.name, i)
+			}
+		}
+	}
+	clear(d.Ops)
+	_ = append(d.Ops, api.Op{Kind: 9})
+	if !sameCircuit(c, ahead) || !sameCircuit(wanted, kept) || !sameCircuit(f.answer(t, c), kept) {
+		t.Fatalf("%s: memory is shared", f.name)
+	}
+}
